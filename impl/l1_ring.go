@@ -21,15 +21,7 @@ type bar struct {
 
 // IsState reports whether a text is a state.
 func IsState(s string) bool {
-	if !isRingCount(len(s)) {
-		return false
-	}
-	for i := range len(s) {
-		if s[i] != '0' && s[i] != '1' {
-			return false
-		}
-	}
-	return true
+	return isRingCount(len(s)) && onlySigns(s)
 }
 
 // CountOn returns how many rings are on.
@@ -251,6 +243,15 @@ func isRingCount(rings int) bool {
 	return rings >= 1 && rings <= MaxRings
 }
 
+func onlySigns(s string) bool {
+	for i := range len(s) {
+		if s[i] != '0' && s[i] != '1' {
+			return false
+		}
+	}
+	return true
+}
+
 func isMoveCount(moves int) bool {
 	return moves <= MaxMoves
 }
@@ -300,16 +301,26 @@ func barAllOn(rings int) bar {
 // states, written in binary, are the signs summed up from the last ring on, so
 // that the signs are where neighbouring digits of the number differ.
 func barOfNumber(rings, number int) bar {
-	n := uint(number)
-	return newBar(rings, n^n>>1)
+	return newBar(rings, uint(reflected(number)))
 }
 
 func (b bar) number() int {
-	n := uint(0)
-	for rest := b.signs; rest != 0; rest >>= 1 {
+	return unreflected(int(b.signs))
+}
+
+// reflected returns a number of at least 0 in which each digit tells whether
+// two neighbouring digits of n differ.
+func reflected(n int) int {
+	return n ^ n>>1
+}
+
+// unreflected returns the number that is reflected as g, of at least 0.
+func unreflected(g int) int {
+	n := 0
+	for rest := g; rest != 0; rest >>= 1 {
 		n ^= rest
 	}
-	return int(n)
+	return n
 }
 
 func (b bar) text() string {

@@ -58,3 +58,43 @@ func untouched(t *testing.T, what string, list []int, call func([]int)) {
 		t.Errorf("%s changes the list given to it", what)
 	}
 }
+
+// newEachTime checks that what a caller does with one result changes no other one.
+func newEachTime[T comparable](t *testing.T, what string, other T, call func() []T) {
+	t.Helper()
+	first := call()
+	before := slices.Clone(first)
+	for i := range first {
+		first[i] = other
+	}
+	if again := call(); len(before) == 0 || !slices.Equal(again, before) {
+		t.Errorf("%s: first %v, then %v", what, before, again)
+	}
+}
+
+func zeroUnless(t *testing.T, what string) func(int, bool) {
+	return func(n int, ok bool) {
+		t.Helper()
+		if !ok && n != 0 {
+			t.Errorf("fails with %d:%s", n, what)
+		}
+	}
+}
+
+func blankUnless(t *testing.T, what string) func(string, bool) {
+	return func(s string, ok bool) {
+		t.Helper()
+		if !ok && s != "" {
+			t.Errorf("fails with %q:%s", s, what)
+		}
+	}
+}
+
+func emptyUnless(t *testing.T, what string) func([]int, bool) {
+	return func(l []int, ok bool) {
+		t.Helper()
+		if !ok && len(l) != 0 {
+			t.Errorf("fails with %v:%s", l, what)
+		}
+	}
+}

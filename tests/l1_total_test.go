@@ -2,7 +2,6 @@ package tests
 
 import (
 	"fmt"
-	"slices"
 	"testing"
 
 	"loop.example/g01314/impl"
@@ -72,61 +71,11 @@ func TestChapter1AcceptsAllListsAndChangesNone(t *testing.T) {
 	}
 }
 
-// What a caller does with one result changes no other one.
 func TestChapter1ResultsAreNew(t *testing.T) {
-	for name, call := range map[string]func() []int{
-		"MovesOf":    func() []int { l, _ := impl.MovesOf("111"); return l },
-		"WayTo":      func() []int { l, _ := impl.WayTo("111", "000"); return l },
-		"TimesMoved": func() []int { l, _ := impl.TimesMoved("111", "000"); return l },
-		"ParseMoves": func() []int { l, _ := impl.ParseMoves("acaba"); return l },
-	} {
-		first := call()
-		before := slices.Clone(first)
-		for i := range first {
-			first[i] = -9
-		}
-		if again := call(); !slices.Equal(again, before) {
-			t.Errorf("%s: first %v, then %v", name, before, again)
-		}
-	}
-	for name, call := range map[string]func() []string{
-		"FarthestFrom":  func() []string { l, _, _ := impl.FarthestFrom("111"); return l },
-		"StatesBetween": func() []string { l, _ := impl.StatesBetween("111", "000"); return l },
-	} {
-		first := call()
-		before := slices.Clone(first)
-		for i := range first {
-			first[i] = "?"
-		}
-		if again := call(); !slices.Equal(again, before) {
-			t.Errorf("%s: first %v, then %v", name, before, again)
-		}
-	}
-}
-
-func zeroUnless(t *testing.T, what string) func(int, bool) {
-	return func(n int, ok bool) {
-		t.Helper()
-		if !ok && n != 0 {
-			t.Errorf("fails with %d:%s", n, what)
-		}
-	}
-}
-
-func blankUnless(t *testing.T, what string) func(string, bool) {
-	return func(s string, ok bool) {
-		t.Helper()
-		if !ok && s != "" {
-			t.Errorf("fails with %q:%s", s, what)
-		}
-	}
-}
-
-func emptyUnless(t *testing.T, what string) func([]int, bool) {
-	return func(l []int, ok bool) {
-		t.Helper()
-		if !ok && len(l) != 0 {
-			t.Errorf("fails with %v:%s", l, what)
-		}
-	}
+	newEachTime(t, "MovesOf", -9, func() []int { l, _ := impl.MovesOf("111"); return l })
+	newEachTime(t, "WayTo", -9, func() []int { l, _ := impl.WayTo("111", "000"); return l })
+	newEachTime(t, "TimesMoved", -9, func() []int { l, _ := impl.TimesMoved("111", "000"); return l })
+	newEachTime(t, "ParseMoves", -9, func() []int { l, _ := impl.ParseMoves("acaba"); return l })
+	newEachTime(t, "FarthestFrom", "?", func() []string { l, _, _ := impl.FarthestFrom("111"); return l })
+	newEachTime(t, "StatesBetween", "?", func() []string { l, _ := impl.StatesBetween("111", "000"); return l })
 }
