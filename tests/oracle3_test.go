@@ -1,6 +1,7 @@
 package tests
 
 import (
+	"cmp"
 	"slices"
 	"strings"
 )
@@ -29,48 +30,14 @@ func pairFlipped(s string, k int) string {
 	return flipped(s, k)
 }
 
-// pairLists maps each state to all lists of fewest moves from start to it.
+// pairLists maps each state to all lists of fewest moves from start to it, in order.
 func pairLists(start string) map[string][][]int {
-	lists := map[string][][]int{start: {nil}}
-	for level := []string{start}; len(level) > 0; {
-		reached := map[string][][]int{}
-		for _, s := range level {
-			for _, k := range rulePairMoves(s) {
-				next := pairFlipped(s, k)
-				if _, seen := lists[next]; seen {
-					continue
-				}
-				for _, way := range lists[s] {
-					reached[next] = append(reached[next], append(slices.Clone(way), k))
-				}
-			}
-		}
-		level = nil
-		for s, ways := range reached {
-			slices.SortFunc(ways, slices.Compare)
-			lists[s] = ways
-			level = append(level, s)
-		}
-	}
-	return lists
+	return listsFrom(start, rulePairMoves, pairFlipped, cmp.Compare[int])
 }
 
 // pairDistances maps each state to the fewest number of moves from start to it.
 func pairDistances(start string) map[string]int {
-	distances := map[string]int{start: 0}
-	queue := []string{start}
-	for len(queue) > 0 {
-		s := queue[0]
-		queue = queue[1:]
-		for _, k := range rulePairMoves(s) {
-			next := pairFlipped(s, k)
-			if _, seen := distances[next]; !seen {
-				distances[next] = distances[s] + 1
-				queue = append(queue, next)
-			}
-		}
-	}
-	return distances
+	return distancesFrom(start, rulePairMoves, pairFlipped)
 }
 
 // statesAt returns the states with distances from least to most, those with lesser numbers first.

@@ -2,7 +2,6 @@ package tests
 
 import (
 	"cmp"
-	"math/big"
 	"slices"
 
 	"loop.example/g01314/impl"
@@ -80,57 +79,15 @@ func compareSlides(a, b impl.Slide) int {
 // slideLists maps each state of a part to all lists of fewest slides from start to it, in order.
 func slideLists(b impl.Bolts, start string) map[string][][]impl.Slide {
 	allowed := ruleAllowedStates(b)
-	lists := map[string][][]impl.Slide{start: {nil}}
-	for level := []string{start}; len(level) > 0; {
-		reached := map[string][][]impl.Slide{}
-		for _, s := range level {
-			for _, m := range slidesAmong(allowed, s) {
-				next := ruleSlid(s, m)
-				if _, seen := lists[next]; seen {
-					continue
-				}
-				for _, way := range lists[s] {
-					reached[next] = append(reached[next], append(slices.Clone(way), m))
-				}
-			}
-		}
-		level = nil
-		for s, ways := range reached {
-			slices.SortFunc(ways, func(a, b []impl.Slide) int { return slices.CompareFunc(a, b, compareSlides) })
-			lists[s] = ways
-			level = append(level, s)
-		}
-	}
-	return lists
+	return listsFrom(start, func(s string) []impl.Slide { return slidesAmong(allowed, s) }, ruleSlid, compareSlides)
 }
 
-// slidWays tells of one state the first list of fewest slides to it, and how many such lists there are.
-type slidWays struct {
-	first []impl.Slide
-	count *big.Int
-}
+type slidWays = foundWays[impl.Slide]
 
-// slideWays maps each state of a part to its ways from start. States come in
-// the order of their first lists, so that the first list found is the first one.
+// slideWays maps each state of a part to its ways from start.
 func slideWays(b impl.Bolts, start string) map[string]slidWays {
 	allowed := ruleAllowedStates(b)
-	ways := map[string]slidWays{start: {count: big.NewInt(1)}}
-	queue := []string{start}
-	for len(queue) > 0 {
-		s := queue[0]
-		queue = queue[1:]
-		for _, m := range slidesAmong(allowed, s) {
-			next := ruleSlid(s, m)
-			if _, seen := ways[next]; !seen {
-				ways[next] = slidWays{first: append(slices.Clone(ways[s].first), m), count: big.NewInt(0)}
-				queue = append(queue, next)
-			}
-			if len(ways[next].first) == len(ways[s].first)+1 {
-				ways[next].count.Add(ways[next].count, ways[s].count)
-			}
-		}
-	}
-	return ways
+	return waysFrom(start, func(s string) []impl.Slide { return slidesAmong(allowed, s) }, ruleSlid)
 }
 
 // rulePartOf maps each allowed state to the first state of its part.
@@ -158,15 +115,4 @@ func ruleNeedless(b impl.Bolts) []int {
 		}
 	}
 	return needless
-}
-
-// farthestOf returns the first one of the states with the longest lists, and how long these are.
-func farthestOf(ways map[string]slidWays) (string, int) {
-	far, most := "", -1
-	for s, way := range ways {
-		if n := len(way.first); n > most || n == most && s < far {
-			far, most = s, n
-		}
-	}
-	return far, most
 }
